@@ -69,10 +69,10 @@ func (p *Peer) raise() {
 	}
 }
 
-// caughtUp tells whether all learners have what is committed.
+// caughtUp tells whether all learners have what is committed. One that C leaves out may lead, and be wanted again: itself has it.
 func (p *Peer) caughtUp(c api.Config) bool {
 	for _, n := range c.Learners {
-		if !node(n) || p.others[n].match < p.Commit {
+		if n != p.Id && (!node(n) || p.others[n].match < p.Commit) {
 			return false
 		}
 	}

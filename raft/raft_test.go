@@ -631,6 +631,26 @@ func TestChangeAlone(t *testing.T) { // to commit
 	}
 }
 
+func TestWantedAgain(t *testing.T) { // to commit: a leader that is left out, and wanted again ahead of that
+	p := leader(t, cfg(r{1, 2}))
+	ack(p, 2, 1)
+	p.Change(2)
+	ack(p, 2, 2)
+	ack(p, 2, 3)
+	if c, at := p.log.Config(); at != 4 || !slices.Equal(c.Voters, r{2}) || len(c.Want) > 0 {
+		t.Fatalf("%+v at %d", c, at)
+	}
+	if _, err := p.Change(1, 2); err != api.OK {
+		t.Fatalf("%d", err)
+	}
+	for i := 5; i <= 7; i++ {
+		ack(p, 2, i)
+	}
+	if c, _ := p.log.Config(); !slices.Equal(c.Voters, r{1, 2}) || len(c.Old)+len(c.Want)+len(c.Learners) > 0 || p.State().Commit != 7 || p.State().Role != api.RoleLeader {
+		t.Errorf("%+v, %+v", c, p.State())
+	}
+}
+
 func TestInstallCompact(t *testing.T) { // P12.5
 	l := log.New(api.Base{Config: cfg(r{1, 2})})
 	p := New(2, 1, 0, l)
