@@ -185,6 +185,49 @@ func TestRename(t *testing.T) { // P7.3
 	}
 }
 
+func TestRenameLeavesOthers(t *testing.T) { // P7.3
+	for keep, want := range map[int][2]string{0: {"", ""}, 1: {"1", ""}, 2: {"12", ""}, 3: {"12", "3"}, 4: {"124", "3"}} {
+		d := wrote(t)
+		ok(t, d.Rename("a", "c"))
+		d.Crash(keep)
+		has(t, d, "c", want[0])
+		has(t, d, "b", want[1])
+		e := wrote(t)
+		ok(t, e.Rename("b", "c"))
+		e.Crash(keep)
+		has(t, e, "a", want[0])
+		has(t, e, "c", want[1])
+	}
+}
+
+func TestCopySharesNothing(t *testing.T) { // P7.1
+	d := wrote(t)
+	c := d.Copy()
+	ok(t, d.Cut("a", 1))
+	ok(t, d.Append("a", []byte("xyz")))
+	ok(t, d.Sync("b"))
+	c.Crash(3)
+	has(t, c, "a", "12")
+	has(t, c, "b", "3")
+	e := wrote(t)
+	f := e.Copy()
+	ok(t, f.Cut("a", 0))
+	ok(t, f.Append("a", []byte("xyz")))
+	has(t, e, "a", "124")
+	e.Crash(2)
+	has(t, e, "a", "12")
+}
+
+func TestCutEdges(t *testing.T) { // P7.3
+	d := wrote(t)
+	ok(t, d.Cut("a", 0))
+	has(t, d, "a", "")
+	ok(t, d.Cut("a", 0))
+	if d.Cut("a", 1) != api.ErrArg || d.Waits() != 1 {
+		t.Error("an empty file")
+	}
+}
+
 func TestRemove(t *testing.T) { // P7.3
 	d := wrote(t)
 	if d.Remove("b", "x", "a") != api.ErrNone || !slices.Equal(d.Names(), []string{"a"}) || d.Waits() != 3 {

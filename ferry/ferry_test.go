@@ -142,6 +142,52 @@ func TestWrongPieces(t *testing.T) { // P13.3
 	take(t, f, x, 0, false)
 }
 
+func TestSizes(t *testing.T) { // P13.3
+	f := New()
+	whole := piece(0, 600, 600)
+	whole.Size = api.MaxImage
+	take(t, f, whole, 600, false)
+	end := api.Letter{Kind: api.LetterPiece, Term: 4, Base: image(0).Base, Size: api.MaxImage, At: 600, Bytes: make([]byte, api.MaxImage-600)}
+	if at, done, m := f.Take(end); at != api.MaxImage || !done || len(m.Bytes) != api.MaxImage {
+		t.Errorf("%d, %v", at, done)
+	}
+	f = New()
+	take(t, f, piece(0, 0, 20), 0, false)
+	take(t, f, piece(5, 10, 20), 0, false) // behind what it has
+	take(t, f, piece(0, 20, 20), 20, true)
+	x := piece(20, 20, 20)
+	take(t, f, x, 0, false)
+	take(t, f, piece(0, 10, 20), 10, false)
+	take(t, f, x, 10, false)
+	x.At, x.Size = 21, 20
+	take(t, f, x, 0, false)
+}
+
+func full() api.Config {
+	return api.Config{Voters: []int{1}, Old: []int{2}, Learners: []int{3}, Want: []int{4}}
+}
+
+func TestConfigs(t *testing.T) { // R3
+	m := api.Image{Base: api.Base{Config: full()}, Bytes: some(5)}
+	x, _ := Fill(api.Letter{Kind: api.LetterPiece}, m)
+	if !reflect.DeepEqual(x.Base.Config, full()) {
+		t.Errorf("%+v", x.Base.Config)
+	}
+	_, _, got := New().Take(x)
+	for _, c := range []api.Config{x.Base.Config, m.Base.Config} {
+		clear(c.Voters)
+		clear(c.Old)
+		clear(c.Learners)
+		clear(c.Want)
+		clear(x.Bytes)
+	}
+	if !reflect.DeepEqual(got.Base.Config, full()) || !bytes.Equal(got.Bytes, some(5)) {
+		t.Errorf("memory is shared: %+v", got)
+	}
+	x, _ = Fill(api.Letter{Kind: api.LetterPiece}, api.Image{Base: api.Base{Config: full()}, Bytes: some(5)})
+	clear(x.Base.Config.Want)
+}
+
 func TestNewAndDrop(t *testing.T) { // P13.2
 	f := New()
 	take(t, f, piece(0, 10, 20), 10, false)

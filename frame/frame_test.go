@@ -141,6 +141,27 @@ func TestTurnedBit(t *testing.T) { // P3.3
 	}
 }
 
+func TestLengths(t *testing.T) { // P3.1, P3.2
+	for n := range 600 {
+		data := make([]byte, n)
+		b := put(t, Frame{n % 256, data}, Frame{9, nil})
+		if b[0] != byte(n) || b[1] != byte(n>>8) || b[2] != 0 || b[3] != 0 || len(b) != n+18 {
+			t.Fatalf("%d bytes", n)
+		}
+		if l, k := Get(b); k != len(b) || !same(l, []Frame{{n % 256, data}, {9, nil}}) {
+			t.Fatalf("%d bytes", n)
+		}
+	}
+	b := put(t, Frame{1, make([]byte, api.MaxFrame)})
+	if b[2] != 4 || b[3] != 0 {
+		t.Error("the longest")
+	}
+	b[3] = 1
+	if l, k := Get(b); len(l) > 0 || k != 0 {
+		t.Error("a length of four bytes")
+	}
+}
+
 func TestFramesAreNew(t *testing.T) { // R3
 	b := put(t, Frame{1, []byte{5}}, Frame{1, []byte{6}})
 	l, _ := Get(b)

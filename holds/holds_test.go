@@ -212,6 +212,34 @@ func TestReadWrong(t *testing.T) { // P16.4
 	}
 }
 
+func TestReadNums(t *testing.T) { // P16.4
+	for _, num := range []int{0, 1, -1, api.MaxNum, -api.MaxNum} {
+		x := hold("k", name(1, 1))
+		x.Acts[1].Num = num
+		b, _ := Write(wire.NewWriter(), x).Done()
+		if l, ok := Read(wire.NewReader(b)); !ok || !same(l, []api.Hold{x}) {
+			t.Errorf("%d: %v", num, l)
+		}
+	}
+}
+
+func TestNamesAreOldestFirst(t *testing.T) { // P16.1
+	h, num := New(), 7
+	var want []api.Name
+	for i := range 50 {
+		num = num * 31 % 53
+		x := hold(fmt.Sprintf("k%02d", i), name(1+num%8, 1+num%5))
+		h.Put(x)
+		if !slices.Contains(want, x.Name) {
+			want = append(want, x.Name)
+		}
+	}
+	slices.SortFunc(want, func(a, b api.Name) int { return 100*(a.Num-b.Num) + a.Client - b.Client })
+	if got := h.Names(); !slices.Equal(got, want) || len(want) < 20 {
+		t.Errorf("%v, not %v", got, want)
+	}
+}
+
 func TestNone(t *testing.T) { // R5
 	for _, h := range []*Holds{nil, {}} {
 		_, of := h.Of("k")

@@ -85,6 +85,19 @@ func TestWrong(t *testing.T) { // P9.1, P9.2
 	}
 }
 
+func TestEdges(t *testing.T) { // P9.1
+	for _, b := range []api.Base{{}, {Index: api.MaxIndex}, {Term: api.MaxTerm}, {Index: 1, Term: 1, Config: api.Config{Want: []int{5}}}} {
+		if data, err := Bytes(api.Image{Base: b}); err != api.OK || len(data) == 0 {
+			t.Errorf("%v: %d", b, err)
+		}
+	}
+	for _, b := range []api.Base{{Index: -1}, {Term: -1}, {Index: api.MaxIndex + 1}, {Term: api.MaxTerm + 1}, {Config: api.Config{Want: []int{2, 1}}}} {
+		if data, err := Bytes(api.Image{Base: b}); err != api.ErrArg || len(data) > 0 {
+			t.Errorf("%v: %d", b, err)
+		}
+	}
+}
+
 func TestErrors(t *testing.T) { // P9.2, P9.3
 	for _, d := range []*disk.Disk{nil, {}} {
 		if err := Save(d, 9, some(-1, "")); err != api.ErrNil {

@@ -73,6 +73,11 @@ func TestConfigAndEntry(t *testing.T) { // P8.1
 		}
 	}
 	joined := api.Config{Voters: []int{1}}
+	for _, row := range []api.Config{{Voters: []int{1}}, {Old: []int{1}}, {Learners: []int{1}}, {Want: []int{1}}} {
+		if Entry(api.Entry{Kind: api.EntryNothing, Config: row}) || Entry(api.Entry{Kind: api.EntryCommand, Config: row}) || !Entry(api.Entry{Kind: api.EntryConfig, Config: row}) {
+			t.Errorf("%v", row)
+		}
+	}
 	for i, e := range []api.Entry{{}, {Kind: 4}, nothing(-1), nothing(api.MaxTerm + 1), command(1, string(long)), config(1, 6),
 		{Kind: api.EntryNothing, Command: []byte{1}}, {Kind: api.EntryNothing, Config: joined}, {Kind: api.EntryCommand, Config: joined}, {Kind: api.EntryConfig, Config: joined, Command: []byte{1}}} {
 		if Entry(e) {
@@ -180,6 +185,44 @@ func TestBases(t *testing.T) { // P8.3
 	}
 }
 
+func TestFile(t *testing.T) { // the file of a group
+	d := disk.New(0)
+	j, err := Open(d, 4)
+	ok(t, err)
+	ok(t, j.Vote(300, 2))
+	ok(t, j.Append(1, command(3, "x"), config(4, 5)))
+	ok(t, j.Base(baseOf(1, 3, 1, 2)))
+	want, _ := frame.Put(frame.Frame{Kind: 1, Data: []byte{172, 2, 2}}, frame.Frame{Kind: 2, Data: []byte{1, 2, 3, 2, 1, 'x', 0, 0, 0, 0, 4, 3, 0, 1, 5, 0, 0, 0}}, frame.Frame{Kind: 3, Data: []byte{1, 3, 2, 1, 2, 0, 0, 0}})
+	if b, _ := d.Read("journal.4"); !bytes.Equal(b, want) {
+		t.Errorf("%v, not %v", b, want)
+	}
+}
+
+func TestEdges(t *testing.T) { // P8.3
+	j := open(t, disk.New(0))
+	for _, c := range [][2]int{{0, 0}, {0, 5}, {api.MaxTerm, 0}, {api.MaxTerm, 5}, {1, 1}} {
+		ok(t, j.Vote(c[0], c[1]))
+	}
+	ok(t, j.Append(1, nothing(0), nothing(api.MaxTerm)))
+	ok(t, j.Base(baseOf(0, api.MaxTerm)))
+	if n := len(j.State().Entries); n != 0 {
+		t.Errorf("of the same index, another term: %d entries", n)
+	}
+	ok(t, j.Append(1, nothing(2)))
+	ok(t, j.Base(baseOf(0, api.MaxTerm, 1)))
+	if n := len(j.State().Entries); n != 1 {
+		t.Errorf("of the same index and term: %d entries", n)
+	}
+	ok(t, j.Base(baseOf(api.MaxIndex, 0)))
+	ok(t, j.Base(baseOf(api.MaxIndex, 0, 1)))
+	ok(t, j.Append(api.MaxIndex+1, nothing(1)))
+	for _, b := range []api.Base{baseOf(-1, 0), baseOf(0, -1), baseOf(api.MaxIndex+1, 0), baseOf(api.MaxIndex, api.MaxTerm+1)} {
+		if err := open(t, disk.New(0)).Base(b); err != api.ErrArg {
+			t.Errorf("%v: %d", b, err)
+		}
+	}
+}
+
 func TestStepErrors(t *testing.T) { // P8.3
 	j := open(t, disk.New(0))
 	ok(t, j.Base(baseOf(4, 2, 1)))
@@ -238,7 +281,7 @@ func TestOpenErrors(t *testing.T) { // P8.2
 	}
 	for i, f := range []frame.Frame{{Kind: 0}, {Kind: 4, Data: []byte{1, 1}}, {Kind: 1}, {Kind: 1, Data: []byte{1}}, {Kind: 1, Data: []byte{1, 6}}, {Kind: 1, Data: []byte{1, 1, 0}},
 		taken(1, 0), taken(0, 1, entry), taken(2, 1, entry), taken(1, 2, entry), taken(1, 1, entry, entry), {Kind: 2}, {Kind: 2, Data: []byte{1, 255, 255, 15}},
-		{Kind: 3}, {Kind: 3, Data: []byte{0, 0, 0, 0, 0, 0, 0}}, {Kind: 3, Data: []byte{0, 0, 1, 6, 0, 0, 0}}} {
+		{Kind: 3}, {Kind: 3, Data: []byte{0, 0, 0, 0, 0, 0, 0}}, {Kind: 3, Data: []byte{0, 0, 0, 0, 0}}, {Kind: 2, Data: append([]byte{1, 2}, entry...)}, {Kind: 3, Data: []byte{0, 0, 1, 6, 0, 0, 0}}} {
 		d := disk.New(0)
 		good, _ := frame.Put(frame.Frame{Kind: 1, Data: []byte{1, 1}}, f, frame.Frame{Kind: 1, Data: []byte{2, 2}})
 		ok(t, d.Append("journal.0", good, []byte{1, 2, 3}))
@@ -276,6 +319,22 @@ func TestNone(t *testing.T) { // P8.4
 
 func TestMemory(t *testing.T) { // R3
 	j := open(t, disk.New(0))
+	full := api.Config{Voters: []int{1}, Old: []int{2}, Learners: []int{3}, Want: []int{4}}
+	k := open(t, disk.New(0))
+	given := api.Base{Config: api.Config{Voters: []int{1}, Old: []int{2}, Learners: []int{3}, Want: []int{4}}}
+	ok(t, k.Base(given))
+	ok(t, k.Append(1, api.Entry{Kind: api.EntryConfig, Config: given.Config}))
+	for range 2 {
+		for _, c := range []api.Config{given.Config, k.State().Base.Config, k.State().Entries[0].Config} {
+			clear(c.Voters)
+			clear(c.Old)
+			clear(c.Learners)
+			clear(c.Want)
+		}
+		if s := k.State(); !reflect.DeepEqual(s.Base.Config, full) || !reflect.DeepEqual(s.Entries[0].Config, full) {
+			t.Errorf("memory is shared: %+v", s)
+		}
+	}
 	l, b := []api.Entry{command(1, "abc"), config(1, 1, 2)}, baseOf(0, 0, 1)
 	ok(t, j.Append(1, l...))
 	ok(t, j.Base(b))

@@ -41,7 +41,7 @@ func TestRight(t *testing.T) { // P6.1
 	}
 	for _, c := range []api.Config{cf(r{0}), cf(r{6}), cf(r{2, 1}), cf(r{1, 1}), cf(r{1}, r{2, 2}, nil, r{1}), cf(r{1}, nil, r{3, 2}, r{2, 3}), cf(r{1}, nil, nil, r{2, 1}),
 		cf(nil, r{1}), cf(nil, nil, r{1}), cf(nil, nil, nil, r{1}), cf(nil, nil, r{1}, r{1}), cf(nil, r{1}, nil, r{1}),
-		cf(r{1}, r{2}), cf(r{1}, r{2}, nil, r{2}), cf(r{1}, r{2}, r{3}, r{1}), cf(r{1}, nil, r{2}), cf(r{1}, nil, r{1}, r{1}), cf(r{1}, nil, nil, r{1}),
+		cf(r{1}, r{2}), cf(r{1}, r{2, 3}), cf(r{1}, r{2}, nil, r{2}), cf(r{1}, r{2}, r{3}, r{1}), cf(r{1}, nil, r{2}), cf(r{1}, nil, r{1}, r{1}), cf(r{1}, nil, nil, r{1}),
 		cf(r{1, 2}, nil, r{3}, r{3, 4}), cf(r{1, 2}, nil, r{3, 4}, r{3}), cf(r{1, 2}, nil, nil, r{3}), cf(r{1, 2}, nil, r{2}, r{2})} {
 		if Right(c) {
 			t.Errorf("%v is not right", c)
@@ -133,11 +133,14 @@ func TestMemory(t *testing.T) { // R3
 	if !slices.Equal(v, r{1, 2}) || !slices.Equal(want, r{2, 3}) || b.Learners[0] != 3 || n.Want[0] != 2 || n.Old[0] != 1 {
 		t.Error("lists share memory")
 	}
-	c := cf(r{1, 2}, r{1}, nil, r{1, 2})
-	m, _ := Next(c)
-	m.Voters[0] = 7
-	if c.Voters[0] != 1 {
-		t.Error("lists share memory")
+	for _, c := range []api.Config{cf(r{1, 2}, r{1}, nil, r{1, 2}), cf(r{1}, nil, r{2}, r{1, 2})} {
+		m, _ := Next(c)
+		for _, l := range []r{m.Voters, m.Old, m.Want} {
+			clear(l)
+		}
+		if c.Voters[0] != 1 || c.Want[0] != 1 || c.Want[1] != 2 {
+			t.Error("lists share memory")
+		}
 	}
 }
 

@@ -108,7 +108,7 @@ func TestStep(t *testing.T) { // P21.3, P21.6
 		num   int
 		stage api.Stage
 		err   api.Errno
-	}{{0, 2, api.ErrArg}, {api.MaxNum + 1, 2, api.ErrArg}, {1, 0, api.ErrArg}, {1, 10, api.ErrArg}, {2, 0, api.ErrArg}, {2, 2, api.ErrScheme}, {1, 3, api.ErrScheme}, {1, 9, api.ErrScheme}} {
+	}{{0, 2, api.ErrArg}, {api.MaxNum + 1, 2, api.ErrArg}, {1, 0, api.ErrArg}, {1, 10, api.ErrArg}, {2, 0, api.ErrArg}, {2, 2, api.ErrScheme}, {api.MaxNum, 2, api.ErrScheme}, {2, 1, api.ErrScheme}, {2, 9, api.ErrScheme}, {1, 3, api.ErrScheme}, {1, 9, api.ErrScheme}} {
 		if stage, err := r.Step(c.num, c.stage); stage != 0 || err != c.err || !bytes.Equal(was, bytesOf(r)) {
 			t.Errorf("%v: %d, %d", c, stage, err)
 		}

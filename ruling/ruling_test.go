@@ -51,6 +51,12 @@ func TestRight(t *testing.T) { // P19.1
 	if !Right() || !Right(yes(1, 1, 1), no(8, api.MaxNum, 1<<30), yes(1, 1, 1, "a", "bb", "c", "d", "e", "f")) {
 		t.Error("these are right")
 	}
+	if x := yes(1, 1, 1, strings.Repeat("k", 20)); !Right(x) || len(x.Reads[0].Value) != 19 {
+		t.Error("a long key")
+	}
+	if !Right(Verdict{Name: name(1, 1), Commit: true, At: 1, Reads: []api.Read{{Key: "k", Is: true, Value: strings.Repeat("v", 20)}, {Key: "k", Is: true}}}) {
+		t.Error("a long value")
+	}
 	for i, x := range wrong() {
 		if Right(x) || Right(no(1, 1, 1), x) {
 			t.Errorf("%d is right", i)

@@ -76,7 +76,7 @@ func TestWithin(t *testing.T) { // P4.2
 		{sp("a", "b"), sp("a", "b"), true}, {sp("a", "b"), sp("", ""), true}, {sp("", ""), sp("", ""), true},
 		{sp("a", "b"), sp("a", "c"), true}, {sp("b", "c"), sp("a", "c"), true}, {sp("a", ""), sp("a", "c"), false},
 		{sp("", "b"), sp("a", "c"), false}, {sp("a", "d"), sp("a", "c"), false}, {sp("a", ""), sp("", ""), true},
-		{sp("b", "a"), sp("", ""), false}, {sp("a", "b"), sp("z", "a"), false}, {sp("", "0"), sp("", "1"), true},
+		{sp("b", "a"), sp("", ""), false}, {sp("a", "b"), sp("", "b-"), false}, {sp("b", "c"), sp("A", ""), false}, {sp("b", "c-"), sp("a", ""), false}, {sp("a", "b"), sp("z", "a"), false}, {sp("", "0"), sp("", "1"), true},
 	} {
 		if Within(c.in, c.s) != c.is {
 			t.Errorf("%v in %v", c.in, c.s)

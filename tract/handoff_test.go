@@ -221,6 +221,46 @@ func TestDropAndForget(t *testing.T) { // P18.4
 	}
 }
 
+func TestFirstPlace(t *testing.T) { // P18.4: what is closed, what comes, may be the first one
+	x := all()
+	do(t, x, name(1, 1), 1, put("a", "1"))
+	b, err := x.Freeze(3, sp("", "c"), 1)
+	ok(t, err)
+	again, err := x.Freeze(3, sp("x", "y"), 1)
+	if err != api.OK || !bytes.Equal(b, again) {
+		t.Errorf("%d", err)
+	}
+	if _, err := x.Freeze(4, sp("x", "y"), 1); err != api.ErrScheme {
+		t.Errorf("%d", err)
+	}
+	ok(t, x.Drop(3))
+	stretchesAre(t, x, open("c", "", 1))
+	ok(t, x.Absorb(4, sp("", "b"), b))
+	ok(t, x.Open(4, 2))
+	stretchesAre(t, x, open("", "b", 2), open("c", "", 1))
+	ok(t, x.Absorb(5, sp("b", "c"), cargoEmpty()))
+	ok(t, x.Open(5, 1))
+	stretchesAre(t, x, open("", "b", 2), open("b", "c", 1), open("c", "", 1))
+	rowsAre(t, x, "a=1")
+}
+
+func TestForgetAnother(t *testing.T) { // P18.4
+	x := New()
+	ok(t, x.Absorb(5, sp("k", ""), cargoEmpty()))
+	ok(t, x.Forget(4))
+	ok(t, x.Absorb(5, sp("k", ""), nil)) // it is aboard
+	ok(t, x.Open(5, 1))
+	stretchesAre(t, x, open("k", "", 1))
+	y := all()
+	y.Freeze(7, sp("a", "b"), 1)
+	ok(t, y.Thaw(6))
+	if _, err := y.Freeze(7, span.All(), 1); err != api.OK || y.Ended() != 6 {
+		t.Errorf("%d", err)
+	}
+	ok(t, y.Drop(6))
+	stretchesAre(t, y, open("", "a", 1), closed("a", "b", 1, 7), open("b", "", 1))
+}
+
 func TestHandoffIsWhole(t *testing.T) { // P18.6, example
 	a, b := all(), New()
 	do(t, a, name(1, 1), 1, add("k", 5))

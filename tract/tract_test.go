@@ -168,6 +168,8 @@ func TestPrepareHeld(t *testing.T) { // P18.2
 	prepare(t, x, api.OK, name(2, 5), 7, put("b", "1"))       // whatever the epoch
 	prepare(t, x, api.ErrStale, name(2, 5), 2, put("b", "2")) // other acts
 	prepare(t, x, api.ErrStale, name(2, 5), 2, get("a"), get("a"))
+	prepare(t, x, api.ErrStale, name(2, 5), 2, get("a"), get("a"), put("b", "1"))
+	prepare(t, x, api.ErrStale, name(2, 5), 2, get("a"), put("b", "1"), get("b"))
 	prepare(t, x, api.ErrStale, name(2, 5), 2, get("a"), get("aa"))
 	prepare(t, x, api.ErrStale, name(2, 5), 2, get("a"), get("z"))
 	prepare(t, x, api.OK, name(2, 5), 1, get("d")) // none of its keys has a hold

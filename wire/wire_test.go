@@ -92,8 +92,9 @@ func TestRead(t *testing.T) { // P2.2, P2.3
 	}
 }
 
+// failed tells whether a reader has failed, for good, whatever stands behind.
 func failed(r *Reader) bool {
-	return r.Number(math.MaxInt) == 0 && !r.Flag() && r.Text(math.MaxInt) == "" && len(r.Row(math.MaxInt)) == 0 && r.Left() == 0 && r.End() == api.ErrShape
+	return r.Left() == 0 && r.End() == api.ErrShape && r.Number(math.MaxInt) == 0 && !r.Flag() && r.Text(math.MaxInt) == "" && len(r.Row(math.MaxInt)) == 0 && r.Left() == 0 && r.End() == api.ErrShape
 }
 
 func TestNumbersThatAreNone(t *testing.T) { // P2.2
@@ -105,7 +106,14 @@ func TestNumbersThatAreNone(t *testing.T) { // P2.2
 		{128, 128, 128, 128, 128, 128, 128, 128, 128, 128, 1},
 		{128, 128, 128, 128, 128, 128, 128, 128, 128, 0},
 	} {
-		r := NewReader(append(b, make([]byte, 0)...))
+		r := NewReader(b)
+		if n := r.Number(math.MaxInt); n != 0 || !failed(r) {
+			t.Errorf("%v: %d", b, n)
+		}
+		if b = append(b, 0, 0, 0, 0); len(b) < 10 {
+			continue // these are one with what follows
+		}
+		r = NewReader(b)
 		if n := r.Number(math.MaxInt); n != 0 || !failed(r) {
 			t.Errorf("%v: %d", b, n)
 		}
@@ -113,6 +121,22 @@ func TestNumbersThatAreNone(t *testing.T) { // P2.2
 	r := NewReader([]byte{128, 0, 1, 1, 1})
 	if r.Number(9) != 0 || !failed(r) {
 		t.Error("fails for good, whatever follows")
+	}
+	r = NewReader([]byte{255, 255, 255, 255, 255, 255, 255, 255, 63, 1})
+	if r.Number(mostNumber) != mostNumber || r.Left() != 1 {
+		t.Error("the greatest number")
+	}
+}
+
+func TestFlags(t *testing.T) { // P2.2
+	for b := range 256 {
+		r := NewReader([]byte{byte(b), 0, 1, 1})
+		if got := r.Flag(); got != (b == 1) || b < 2 && r.Left() != 3 || b > 1 && !failed(r) {
+			t.Errorf("%d: %v", b, got)
+		}
+	}
+	if r := NewReader(nil); r.Flag() || !failed(r) {
+		t.Error("of no byte")
 	}
 }
 
@@ -147,11 +171,6 @@ func TestTooFew(t *testing.T) { // P2.2
 		r, s := NewReader(b), NewReader(b)
 		if r.Text(math.MaxInt) != "" || !failed(r) || len(s.Row(math.MaxInt)) > 0 || !failed(s) {
 			t.Errorf("%v", b)
-		}
-	}
-	for _, b := range [][]byte{{}, {2}, {255}, {128}} {
-		if r := NewReader(append(b, []byte{}...)); r.Flag() || !failed(r) {
-			t.Errorf("flag of %v", b)
 		}
 	}
 }
