@@ -289,7 +289,8 @@ func TestTick(t *testing.T) { // P26.3
 	x.gives("busy: from now on", 104, order.Answer{Err: api.ErrBusy, Name: name(1, 1)})
 	ticks(t, x.Clerk, 1, part(103), part(105), own)
 	ticks(t, x.Clerk, 1, sweep)
-	ticks(t, x.Clerk, 3, part(104))
+	ticks(t, x.Clerk, 2)
+	ticks(t, x.Clerk, 1, part(104))
 	x.gives("holds", 103, order.Answer{})
 	ticks(t, x.Clerk, 1, part(105), own)
 	ticks(t, x.Clerk, 4, sweep, part(104))
@@ -354,6 +355,49 @@ func TestMemory(t *testing.T) { // R3
 	c.Answer(3, order.Answer{Reads: reads})
 	reads[0].Value = "2"
 	ticks(t, c, 5, Ask{4, 0, decide(name(1, 1), true, is("k", "1"))})
+}
+
+func TestReadsAreCopies(t *testing.T) { // R3
+	x := routed(t)
+	reads := []api.Read{is("m", "v")}
+	x.Answer(103, order.Answer{Reads: reads})
+	reads[0].Value = "w"
+	x.Answer(104, order.Answer{Reads: []api.Read{is("x", "7"), is("x", "8")}})
+	l, _ := x.Answer(105, order.Answer{Reads: []api.Read{{Key: "b"}, is("a", "1")}})
+	if l[0].Order.Reads[2].Value != "v" {
+		t.Error("memory is shared")
+	}
+	l[0].Order.Reads[2].Value = "w"
+	again := x.Tick()
+	for range 4 {
+		again = x.Tick()
+	}
+	if again[0].Order.Reads[2].Value != "v" {
+		t.Error("memory is shared")
+	}
+	reads[0].Value = "v"
+	_, replies := x.Answer(106, order.Answer{Commit: true, Reads: reads})
+	reads[0].Value = "w"
+	if replies[0].Reads[0].Value != "v" {
+		t.Error("memory is shared")
+	}
+}
+
+func TestSinceIsNew(t *testing.T) { // to ask an order: Since 0
+	x := newTest(t, 0)
+	x.calls(name(1, 1), get("k"))
+	ticks(t, x.Clerk, 3)
+	x.gives("look", 1, order.Answer{}, Ask{2, 0, order.Order{Kind: order.Ask}})
+	ticks(t, x.Clerk, 4)
+	ticks(t, x.Clerk, 1, Ask{2, 0, order.Order{Kind: order.Ask}})
+}
+
+func TestSweepOfTheFirst(t *testing.T) { // P26.4, 8
+	x := newTest(t, 0)
+	asked(t, "sweep", x.Sweep(1, name(3, 3)), Ask{1, 0, decide(name(3, 3), false)})
+	x.gives("decided", 1, order.Answer{Is: true}, Ask{2, 1, finish(name(3, 3), false)})
+	x.gives("finished", 2, order.Answer{})
+	asked(t, "once more", x.Sweep(4, name(3, 3)), Ask{3, 0, decide(name(3, 3), false)})
 }
 
 func TestReadsOfOneKeyTwice(t *testing.T) { // reads of a call

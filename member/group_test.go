@@ -306,7 +306,7 @@ func TestPiecesThatAreNone(t *testing.T) { // P24.3
 		}
 		if l, _ := s.Letter(pieceOf(x, 5, len(x.Bytes)-5)); s.Halted() {
 			halts = true
-			if len(l) > 0 {
+			if len(l) > 0 || s.Done() != 0 || s.State().Commit != 0 {
 				t.Error("something was told")
 			}
 		}

@@ -191,6 +191,30 @@ func TestBytesAreOfOneHandoff(t *testing.T) { // P27.2
 	}
 }
 
+func TestAnotherAtTheSameStage(t *testing.T) { // P27.2
+	m := New(0)
+	asked(t, "begun", m.Tick(at(7, api.StageBegun), true), ask(1, 1, freeze(7)))
+	asked(t, "another one", m.Tick(at(8, api.StageBegun), true), ask(2, 1, freeze(8)))
+	works(t, m, 8, api.StageBegun)
+	m.Answer(2, order.Answer{Bytes: []byte("x")})
+	asked(t, "another one", m.Tick(at(9, api.StageFrozen), true), ask(4, 1, freeze(9)))
+	m.Answer(4, order.Answer{Bytes: []byte("y")})
+	asked(t, "the one of before", m.Tick(at(8, api.StageFrozen), true), ask(6, 1, freeze(8)))
+}
+
+func TestSinceIsNew(t *testing.T) { // to ask an order: Since 0
+	m := New(0)
+	m.Tick(at(7, api.StageBegun), true)
+	for range 3 {
+		m.Tick(at(7, api.StageBegun), true)
+	}
+	next := m.Answer(1, order.Answer{Bytes: []byte("x")})
+	for range 4 {
+		asked(t, "waits", m.Tick(at(7, api.StageBegun), true))
+	}
+	asked(t, "again", m.Tick(at(7, api.StageBegun), true), next...)
+}
+
 func TestNone(t *testing.T) { // P27.4
 	for _, m := range []*Mover{nil, {}} {
 		works(t, m, 0, 0)

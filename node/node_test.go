@@ -319,7 +319,7 @@ func TestWhom(t *testing.T) { // to ask, to take an answer
 		want int
 	}{
 		{api.Letter{From: 5, Index: 3}, 3}, {api.Letter{From: 5, Index: 2}, 4}, {api.Letter{From: 5, Index: 0}, 5}, {api.Letter{From: 5, Index: 6}, 1}, {api.Letter{From: 5, Ok: true}, 5}, {api.Letter{From: 4, Index: 1, Group: 1}, 1},
-		{api.Letter{From: 4, Ok: true, Index: 3}, 4},
+		{api.Letter{From: 4, Ok: true, Index: 3}, 4}, {api.Letter{From: 4, Index: 1}, 1}, {api.Letter{From: 4, Index: 5}, 5},
 	} {
 		answer(c.x)
 		if got := to(); got != c.want {
@@ -332,6 +332,60 @@ func TestWhom(t *testing.T) { // to ask, to take an answer
 	}
 	if got := to(); got != 3 {
 		t.Errorf("to %d, not who leads", got)
+	}
+}
+
+func TestGuessWithoutSeats(t *testing.T) { // P28.1
+	n, _ := Open(disk.New(0), 2, shares.First(1))
+	for _, want := range []int{1, 3, 4} {
+		num := len(n.Names()) + 1
+		out, _ := n.Call(name(1, num), get("k"))
+		if len(out.Letters) != 1 || out.Letters[0].To != want || len(n.Names()) != num {
+			t.Errorf("%+v", out)
+		}
+	}
+	if l := n.Names(); !slices.Equal(l, []api.Name{name(1, 1), name(1, 2), name(1, 3)}) {
+		t.Errorf("%v", l)
+	}
+}
+
+func TestMoverTags(t *testing.T) { // the clerk's tags begin at life times 2^32, the mover's at that and 2^31
+	n, _ := Open(disk.New(0), 1, shares.First(1), []int{1}, []int{2}, []int{2})
+	for range 12 {
+		n.Tick(0)
+	}
+	if _, err := n.Handoff(api.Span{}, 2); err != api.OK {
+		t.Fatalf("%d", err)
+	}
+	out := n.Tick(0)
+	b, _ := order.Put(order.Order{Kind: order.Freeze, Scheme: 1, Epoch: 1})
+	if len(out.Letters) != 1 || !letter.Same(out.Letters[0], api.Letter{Kind: api.LetterPropose, Group: 1, From: 1, To: 2, Term: 1, Tag: 1<<32 + 1<<31 + 1, Bytes: b}) {
+		t.Errorf("%+v", out)
+	}
+	m, _ := Open(disk.New(0), 2, shares.First(1), []int{1}, []int{2}, []int{2})
+	for range 12 {
+		m.Tick(0)
+	}
+	if _, err := m.Handoff(api.Span{}, 2); err != api.ErrLeader || m.State(1).Role != api.RoleLeader {
+		t.Errorf("it leads another group: %d", err)
+	}
+}
+
+func TestLooksEach20thTick(t *testing.T) { // P28.2
+	for g := 1; g <= 4; g++ {
+		n, err := Open(disk.New(0), 1, shares.First(g), seats(1)...)
+		ok(t, err)
+		for range 12 {
+			n.Tick(0)
+		}
+		b, _ := order.Put(order.Order{Kind: order.Prepare, Name: name(5, 5), Epoch: 1, Acts: []api.Act{get("k")}})
+		n.Letter(api.Letter{Kind: api.LetterPropose, Group: g, From: 2, To: 1, Term: 1, Tag: 1, Bytes: b})
+		for tick := 13; tick <= 41; tick++ {
+			n.Tick(0)
+			if held := len(n.Machine(g).Tract().Names()) == 1; held != (tick < 40) {
+				t.Fatalf("group %d, tick %d: held %v", g, tick, held)
+			}
+		}
 	}
 }
 
@@ -388,6 +442,15 @@ func newCluster(t *testing.T) *cluster {
 func (c *cluster) tell(o Out) {
 	if !letter.Right(o.Letters...) {
 		c.t.Fatalf("letters that are not right: %+v", o.Letters)
+	}
+	for _, x := range o.Letters {
+		y, _ := order.Get(x.Bytes)
+		from := c.nodes[x.From]
+		handoff := y.Kind >= order.Freeze && y.Kind <= order.Forget || y.Kind == order.Step
+		sweep := y.Kind == order.Decide && !y.Commit && len(from.Names()) == 0
+		if x.Kind == api.LetterPropose && (handoff && from.State(0).Role != api.RoleLeader || sweep && from.State(1).Role != api.RoleLeader) {
+			c.t.Errorf("%d asks %+v, but does not lead", x.From, y)
+		}
 	}
 	c.way = append(c.way, o.Letters...)
 	c.out.Replies = append(c.out.Replies, o.Replies...)
