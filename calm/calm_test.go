@@ -16,7 +16,11 @@ func add(key string, num int) api.Act { return api.Act{Kind: api.ActAdd, Key: ke
 
 func newWorld(t *testing.T, nodes int, seats ...[]int) *world.World {
 	t.Helper()
-	w, err := world.New(world.Setting{Nodes: nodes, First: 1, Seats: seats})
+	first := 1
+	if len(seats[1]) == 0 {
+		first = 2
+	}
+	w, err := world.New(world.Setting{Nodes: nodes, First: first, Seats: seats})
 	if err != api.OK {
 		t.Fatalf("error %d", err)
 	}
@@ -197,6 +201,88 @@ func TestTwoLeaders(t *testing.T) { // who leads: that of the greatest term
 		t.Errorf("%d leads, %d led", who, old)
 	}
 	settles(t, w)
+}
+
+// steps lets the nodes but one go on by themselves, all letters to and from which are lost.
+func steps(t *testing.T, w *world.World, but, rounds int) {
+	t.Helper()
+	for range rounds {
+		for n := 1; n <= 3; n++ {
+			if n != but {
+				does(t, w, world.Step{Kind: world.Tick, Node: n, Num: 2 * n})
+			}
+		}
+		for a := 1; a <= 3; a++ {
+			for b := 1; b <= 5; b++ {
+				for a != but && b != but && w.Do(world.Step{Kind: world.Deliver, Node: a, To: b})[0] == api.OK {
+				}
+				for w.Do(world.Step{Kind: world.Lose, Node: a, To: b})[0] == api.OK {
+				}
+			}
+		}
+	}
+}
+
+func TestGreatestTerm(t *testing.T) { // who leads: that of the greatest term, wherever it stands
+	for first := 1; first <= 3; first++ {
+		w := newWorld(t, 3, []int{1, 2, 3}, []int{1, 2, 3})
+		for range 10 {
+			does(t, w, world.Step{Kind: world.Tick, Node: first})
+		}
+		for range 3 {
+			for n := 1; n <= 3; n++ {
+				w.Do(world.Step{Kind: world.Deliver, Node: first, To: n}, world.Step{Kind: world.Deliver, Node: n, To: first})
+			}
+		}
+		if Leads(w)[0] != first {
+			t.Fatalf("%d leads not", first)
+		}
+		steps(t, w, first, 60)
+		if who := Leads(w)[0]; who == first || who == 0 || w.Node(first).State(0).Role != api.RoleLeader {
+			t.Errorf("%d leads, %d led", who, first)
+		}
+	}
+}
+
+func TestWantedOne(t *testing.T) { // a group rests not, as long as anybody is wanted
+	w := newWorld(t, 3, []int{1, 2}, []int{1, 2})
+	settles(t, w)
+	does(t, w, world.Step{Kind: world.Crash, Node: 3})
+	lead := Leads(w)[1]
+	does(t, w, world.Step{Kind: world.Change, Node: lead, Group: 1, Want: []int{1, 2, 3}})
+	steps(t, w, 3, 20)
+	x := w.Node(lead)
+	if x.State(1).Commit != x.Last(1) || w.Node(3-lead).State(1).Commit != x.Last(1) || len(x.Config(1).Learners) != 1 || Quiet(w, 1) {
+		t.Errorf("%+v", x.Config(1))
+	}
+	settles(t, w)
+}
+
+func TestFivePlaces(t *testing.T) { // the places are up to 5
+	w := newWorld(t, 5, []int{5}, nil, []int{4})
+	settles(t, w)
+	if l := Leads(w); !slices.Equal(l, []int{5, 0, 4, 0, 0}) {
+		t.Errorf("%v", l)
+	}
+	does(t, w, world.Step{Kind: world.Crash, Node: 5})
+	if Rest(w) || Quiet(w, 0) || Leads(w)[0] != 0 {
+		t.Error("a place is not up")
+	}
+}
+
+func TestRoundByRound(t *testing.T) { // P31.2
+	w, v := newWorld(t, 3, []int{1, 2, 3}, []int{1, 2, 3}), newWorld(t, 3, []int{1, 2, 3}, []int{1, 2, 3})
+	want := 0
+	for ; !Rest(v); want++ {
+		does(t, v, world.Step{Kind: world.Calm, Num: 1})
+	}
+	if n, rest := Settle(w, want); n != want || !rest || len(w.History()) != len(v.History()) {
+		t.Errorf("%d rounds, not %d", n, want)
+	}
+	u := newWorld(t, 3, []int{1, 2, 3}, []int{1, 2, 3})
+	if n, rest := Settle(u, want-1); n != want-1 || rest {
+		t.Errorf("%d rounds, %v", n, rest)
+	}
 }
 
 // dice is numbers that are the same each time.

@@ -70,6 +70,13 @@ func TestDo(t *testing.T) { // P30.1
 			t.Errorf("%d: %v, %v", i, rows, told)
 		}
 	}
+	same := step(1, acts(put("k", "9")), nil, 0, 0)
+	if rows, _ := Do(table, same); rows[1].Value != "9" || table[1].Value != "5" {
+		t.Error("an argument was changed")
+	}
+	if rows, told := Do(table, step(1, acts(put("k", "9"), get("k")), nil, -1, 0)); !slices.Equal(rows, table) || len(told) > 0 {
+		t.Errorf("%v, %v", rows, told)
+	}
 	if rows, told := Do(table, Step{}); !slices.Equal(rows, table) || len(told) > 0 {
 		t.Errorf("%v, %v", rows, told)
 	}
@@ -96,7 +103,7 @@ func TestFit(t *testing.T) { // P30.2, example 1
 }
 
 func TestAfter(t *testing.T) { // P30.2
-	l := []Step{one(), {}, step(3, acts(add("k", 1), put("a", "x")), nil, 0, 0), one()}
+	l := []Step{one(), step(2, acts(put("b", "1")), nil, -1, 0), step(3, acts(add("k", 1), put("a", "x")), nil, 0, 0), one()}
 	if rows := After(l[:3]...); !slices.Equal(rows, []api.Row{row("a", "x"), row("k", "6")}) {
 		t.Errorf("%v", rows)
 	}
@@ -112,7 +119,7 @@ func TestInTime(t *testing.T) { // P30.3
 		l    []Step
 		a, b int
 	}{
-		{nil, -1, -1}, {[]Step{at(1, 2), at(3, 4)}, -1, -1}, {[]Step{at(3, 4), at(1, 2)}, 0, 1}, {[]Step{at(3, 5), at(1, 4)}, -1, -1}, {[]Step{at(3, 5), at(1, 3)}, 0, 1}, {[]Step{at(3, 0), at(1, 0)}, -1, -1},
+		{nil, -1, -1}, {[]Step{at(5, 3)}, -1, -1}, {[]Step{at(1, 2), at(3, 4)}, -1, -1}, {[]Step{at(3, 4), at(1, 2)}, 0, 1}, {[]Step{at(3, 5), at(1, 4)}, -1, -1}, {[]Step{at(3, 5), at(1, 3)}, 0, 1}, {[]Step{at(3, 0), at(1, 0)}, -1, -1},
 		{[]Step{at(1, 0), at(9, 0), at(5, 8), at(2, 4), at(1, 3)}, 1, 2}, {[]Step{at(1, 0), at(7, 0), at(5, 8), at(2, 4), at(1, 3)}, 1, 3}, {[]Step{at(0, 0), at(0, 1)}, -1, -1}, {[]Step{at(1, 0), at(0, 1)}, 0, 1},
 	} {
 		if a, b := InTime(c.l...); a != c.a || b != c.b {
@@ -158,10 +165,10 @@ func TestOrder(t *testing.T) { // P30.4, example 1
 	if got, ok := Order(many...); ok || len(got) > 0 {
 		t.Error("more than 8")
 	}
-	x := one()
+	x := step(1, acts(get("k")), reads(api.Read{Key: "k"}), 0, 0)
 	got, _ := Order(x)
-	got[0].Acts[0].Key = "z"
-	if x.Acts[0].Key != "k" {
+	got[0].Acts[0].Key, got[0].Reads[0].Key = "z", "z"
+	if x.Acts[0].Key != "k" || x.Reads[0].Key != "k" {
 		t.Error("memory is shared")
 	}
 }
@@ -247,7 +254,7 @@ func TestFrom(t *testing.T) { // P30.5
 		t.Error("of none")
 	}
 	for i, more := range [][]world.Tale{
-		{decided(1, 30, false)}, {decided(1, 30, true, is("a", "2"))}, {decided(1, 30, true)}, {decided(3, 30, true)}, {called(4, get("a")), decided(4, 7, true)}, {called(4, get("a")), decided(4, 8, false)}, {decided(4, 30, true)},
+		{decided(1, 30, false)}, {decided(1, 30, false), decided(1, 31, true, is("a", "1"))}, {decided(1, 30, true, is("a", "2")), decided(1, 31, true, is("a", "1"))}, {decided(1, 30, true, is("a", "2"))}, {decided(1, 30, true)}, {decided(3, 30, true)}, {called(4, get("a")), decided(4, 7, true)}, {called(4, get("a")), decided(4, 8, false)}, {decided(4, 30, true)},
 		{replied(4, false)}, {replied(4, true)}, {replied(3, true)}, {replied(2, false)}, {replied(1, true, is("a", "2"))}, {replied(1, false, is("a", "1"))},
 	} {
 		if got, ok := From(slices.Concat(l, more)...); ok || len(got) > 0 {

@@ -125,6 +125,7 @@ func TestExample(t *testing.T) { // P29.2 to P29.4, example 1
 	}) {
 		t.Errorf("%+v", got)
 	}
+	kept := slices.Clone(prepare)
 	at := func(kind TaleKind) int { return slices.IndexFunc(l, func(x Tale) bool { return x.Kind == kind }) }
 	if at(Called) != 2 || at(Replied) > at(Decided) || at(Decided) < at(Applied) || l[at(Decided)-1].Kind != Applied || at(Led) < at(Decided) {
 		t.Errorf("%+v", l)
@@ -135,7 +136,11 @@ func TestExample(t *testing.T) { // P29.2 to P29.4, example 1
 		clear(x.Command)
 		clear(x.Shares.List)
 	}
-	if of(w.History(), Called)[0].Acts[0].Key != "k" || of(w.History(), Turned)[0].Shares.List[0].Group != 1 {
+	again := w.History()
+	if of(again, Decided)[0].Reads[0].Key != "k" || of(again, Replied)[0].Reads[0].Key != "k" || !slices.ContainsFunc(of(again, Applied), func(x Tale) bool { return slices.Equal(x.Command, kept) }) {
+		t.Error("memory is shared")
+	}
+	if of(again, Called)[0].Acts[0].Key != "k" || of(w.History(), Turned)[0].Shares.List[0].Group != 1 {
 		t.Error("memory is shared")
 	}
 }
@@ -370,6 +375,135 @@ func TestNone(t *testing.T) { // R5
 		}
 		if len(w.History()) > 0 || w.Node(1) != nil || w.Disk(1) != nil || w.Net() != nil || len(w.Open()) > 0 {
 			t.Error("a world that is none")
+		}
+	}
+}
+
+func TestMemory(t *testing.T) { // R3
+	w := newWorld(t, 2, 0)
+	acts := []api.Act{add("k", 5)}
+	does(t, w, api.OK, Step{Kind: Call, Node: 1, Client: 8, Acts: acts})
+	acts[0].Num = 7
+	w.Open()[0].Num = 9
+	if of(w.History(), Called)[0].Acts[0].Num != 5 || w.Open()[0].Num != 1 {
+		t.Error("memory is shared")
+	}
+	does(t, w, api.OK, Step{Kind: Again, Node: 2, Client: 8})
+	calm(t, w, 100)
+	if l := w.Node(1).Machine(1).Tract().Rows(api.Span{}); !slices.Equal(l, []api.Row{{Key: "k", Value: "5"}}) {
+		t.Errorf("%v", l)
+	}
+	seats := all(1)
+	v, _ := New(Setting{Nodes: 1, First: 1, Seats: seats})
+	clear(seats)
+	does(t, v, api.OK, Step{Kind: Crash, Node: 1})
+	does(t, v, api.OK, Step{Kind: Start, Node: 1})
+	does(t, v, api.ErrLeader, Step{Kind: Handoff, Node: 1, Group: 4})
+}
+
+func TestACallThatHasAnError(t *testing.T) { // P29.2: nothing has happened
+	w := newWorld(t, 2, 0)
+	for range 20 {
+		does(t, w, api.OK, Step{Kind: Call, Node: 1, Client: 1, Acts: []api.Act{get("k")}})
+	}
+	was := len(w.History())
+	does(t, w, api.ErrFull, Step{Kind: Call, Node: 1, Client: 1, Acts: []api.Act{put("k", "x")}})
+	if len(w.Open()) != 20 || len(w.History()) != was {
+		t.Error("something has happened")
+	}
+	does(t, w, api.OK, Step{Kind: Call, Node: 2, Client: 1, Acts: []api.Act{get("m")}})
+	if l := w.Open(); len(l) != 21 || l[20] != (api.Name{Client: 1, Num: 21}) {
+		t.Errorf("%v", l)
+	}
+	does(t, w, api.ErrThere, Step{Kind: Again, Node: 2, Client: 1})
+	calm(t, w, 2000)
+	if len(w.Open()) > 0 {
+		t.Errorf("%v", w.Open())
+	}
+	if got := of(w.History(), Called); len(got) != 21 || got[20].Acts[0].Key != "m" {
+		t.Errorf("%+v", got)
+	}
+}
+
+func TestWhatACrashKeeps(t *testing.T) { // P29.2, P29.3
+	w := newWorld(t, 1, 700)
+	w.Disk(1).Append("other", []byte("abc"))
+	does(t, w, api.OK, Step{Kind: Crash, Node: 1, Num: 2})
+	if b, _ := w.Disk(1).Read("other"); string(b) != "ab" {
+		t.Errorf("%q", b)
+	}
+	does(t, w, api.OK, Step{Kind: Start, Node: 1})
+	w.Disk(1).Append("other", []byte("xyz"))
+	for range 100 {
+		w.Do(Step{Kind: Tick, Node: 1}, Step{Kind: Call, Node: 1, Client: 1, Acts: []api.Act{add("k", 1)}})
+	}
+	if b, _ := w.Disk(1).Read("other"); string(b) != "ab" || w.Node(1) != nil {
+		t.Errorf("of nothing kept: %q", b)
+	}
+}
+
+func TestToldOnce(t *testing.T) { // P29.3
+	w, _ := New(Setting{Nodes: 1, First: 4, Seats: all(1)})
+	if got := of(w.History(), Owned); len(got) != 1 || got[0].Group != 4 {
+		t.Errorf("%+v", got)
+	}
+	for i := range 40 {
+		does(t, w, api.OK, Step{Kind: Tick, Node: 1})
+		if i > 12 {
+			does(t, w, api.OK, Step{Kind: Call, Node: 1, Client: 1, Acts: []api.Act{add("k", 1)}})
+		}
+	}
+	l := w.History()
+	if len(of(l, Owned)) != 1 || len(of(l, Turned)) != 1 || len(of(l, Led)) != 5 {
+		t.Errorf("%+v", of(l, Owned))
+	}
+	does(t, w, api.OK, Step{Kind: Handoff, Node: 1, Group: 1})
+	for range 10 {
+		does(t, w, api.OK, Step{Kind: Tick, Node: 1})
+	}
+	l = w.History()
+	if got := of(l, Owned); len(got) != 2 || got[1].Group != 1 || got[1].Stretch.Epoch != 2 || len(of(l, Turned)) != 2 {
+		t.Errorf("%+v", got)
+	}
+	does(t, w, api.OK, Step{Kind: Handoff, Node: 1, Group: 4})
+	for range 10 {
+		does(t, w, api.OK, Step{Kind: Tick, Node: 1})
+	}
+	l = w.History()
+	if got := of(l, Owned); len(got) != 3 || got[2].Group != 4 || got[2].Stretch.Epoch != 3 || len(of(l, Turned)) != 3 {
+		t.Errorf("%+v", got)
+	}
+}
+
+func TestDraws(t *testing.T) { // P29.2: a round's draws are 2 (Node - 1)
+	w := newWorld(t, 3, 0)
+	for range 40 {
+		calm(t, w, 1)
+		for a := 1; a <= 3; a++ {
+			for b := 1; b <= 3; b++ {
+				for w.Do(Step{Kind: Lose, Node: a, To: b})[0] == api.OK {
+				}
+			}
+		}
+	}
+	for n, want := range []int{4, 3, 3} { // at 10, then each 10, 12, 14
+		if got := w.Node(n + 1).State(0).Term; got != want {
+			t.Errorf("%d: term %d, not %d", n+1, got, want)
+		}
+	}
+}
+
+func TestManyRounds(t *testing.T) { // P29.2
+	w := newWorld(t, 1, 0)
+	calm(t, w, 2000)
+	for n := range 12 {
+		v, u := newWorld(t, 1, 0), newWorld(t, 1, 0)
+		calm(t, v, n)
+		for range n {
+			does(t, u, api.OK, Step{Kind: Tick, Node: 1})
+		}
+		if v.Node(1).State(0) != u.Node(1).State(0) {
+			t.Errorf("%d rounds", n)
 		}
 	}
 }
