@@ -388,6 +388,11 @@ func TestMemory(t *testing.T) { // R3
 	if of(w.History(), Called)[0].Acts[0].Num != 5 || w.Open()[0].Num != 1 {
 		t.Error("memory is shared")
 	}
+	does(t, w, api.OK, Step{Kind: Crash, Node: 1})
+	for to := 1; to <= 5; to++ {
+		for w.Do(Step{Kind: Lose, Node: 1, To: to})[0] == api.OK {
+		}
+	}
 	does(t, w, api.OK, Step{Kind: Again, Node: 2, Client: 8})
 	calm(t, w, 100)
 	if l := w.Node(1).Machine(1).Tract().Rows(api.Span{}); !slices.Equal(l, []api.Row{{Key: "k", Value: "5"}}) {
@@ -477,7 +482,7 @@ func TestToldOnce(t *testing.T) { // P29.3
 
 func TestDraws(t *testing.T) { // P29.2: a round's draws are 2 (Node - 1)
 	w := newWorld(t, 3, 0)
-	for range 40 {
+	for range 60 {
 		calm(t, w, 1)
 		for a := 1; a <= 3; a++ {
 			for b := 1; b <= 3; b++ {
@@ -486,7 +491,7 @@ func TestDraws(t *testing.T) { // P29.2: a round's draws are 2 (Node - 1)
 			}
 		}
 	}
-	for n, want := range []int{4, 3, 3} { // at 10, then each 10, 12, 14
+	for n, want := range []int{6, 5, 4} { // at 10, then each 10, 12, 14
 		if got := w.Node(n + 1).State(0).Term; got != want {
 			t.Errorf("%d: term %d, not %d", n+1, got, want)
 		}
@@ -505,5 +510,14 @@ func TestManyRounds(t *testing.T) { // P29.2
 		if v.Node(1).State(0) != u.Node(1).State(0) {
 			t.Errorf("%d rounds", n)
 		}
+	}
+}
+
+func TestNumbers(t *testing.T) { // the kinds' numbers
+	if !slices.Equal([]StepKind{Call, Again, Handoff, Change, Compact, Deliver, Lose, Twice, Forward, Tick, Crash, Start, Calm}, []StepKind{1, 2, 3, 4, 5, 6, 7, 8, 9, 10, 11, 12, 13}) {
+		t.Error("kinds of steps")
+	}
+	if !slices.Equal([]TaleKind{Called, Replied, Led, Applied, Owned, Decided, Turned}, []TaleKind{1, 2, 3, 4, 5, 6, 7}) {
+		t.Error("kinds of tales")
 	}
 }
