@@ -162,3 +162,31 @@ func TestManyEntriesFit(t *testing.T) { // sending
 		t.Errorf("%d entries", len(out[0].Entries))
 	}
 }
+
+func TestHeardLatelyHoldsForAsksAlone(t *testing.T) { // P12.3, 1
+	for kind := api.LetterVote; kind <= api.LetterGot; kind++ {
+		p := peer(2, 1, 1, cfg(r{1, 2, 3}))
+		p.Letter(api.Letter{Kind: api.LetterPiece, From: 1, To: 2, Term: 1})
+		p.Letter(api.Letter{Kind: kind, From: 3, To: 2, Term: 5, Ok: true})
+		want := api.Peer{Id: 2, Term: 5, Role: api.RoleFollower}
+		if kind == api.LetterAppend || kind == api.LetterPiece {
+			want.Lead = 3
+		}
+		state(t, "a higher term", p, want)
+		l := leader(t, cfg(r{1, 2, 3}))
+		l.Letter(api.Letter{Kind: kind, From: 3, To: 1, Term: 5, Ok: true})
+		if s := l.State(); s.Term != 5 || s.Role != api.RoleFollower {
+			t.Errorf("kind %d: %+v", kind, s)
+		}
+	}
+}
+
+func TestVoterWaitsAnew(t *testing.T) { // P12.3, 3: Since 0
+	p := peer(1, 5, 0, cfg(r{1, 2}))
+	ticks(p, 9, 0)
+	p.Letter(api.Letter{Kind: api.LetterAsk, From: 2, To: 1, Term: 5})
+	told(t, "nine ticks", ticks(p, 9, 0))
+	if len(p.Tick(0)) != 1 {
+		t.Error("ten ticks")
+	}
+}
