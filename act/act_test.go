@@ -1,4 +1,4 @@
-package act
+package act_test
 
 import (
 	"math"
@@ -6,6 +6,7 @@ import (
 	"strings"
 	"testing"
 
+	. "watershed/act"
 	"watershed/api"
 )
 

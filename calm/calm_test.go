@@ -1,4 +1,4 @@
-package calm
+package calm_test
 
 import (
 	"slices"
@@ -6,6 +6,7 @@ import (
 
 	"watershed/act"
 	"watershed/api"
+	. "watershed/calm"
 	"watershed/order"
 	"watershed/witness"
 	"watershed/world"

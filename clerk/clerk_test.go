@@ -1,4 +1,4 @@
-package clerk
+package clerk_test
 
 import (
 	"math"
@@ -7,6 +7,7 @@ import (
 	"testing"
 
 	"watershed/api"
+	. "watershed/clerk"
 	"watershed/order"
 	"watershed/registry"
 	"watershed/shares"

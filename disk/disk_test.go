@@ -1,4 +1,4 @@
-package disk
+package disk_test
 
 import (
 	"bytes"
@@ -8,6 +8,7 @@ import (
 	"testing"
 
 	"watershed/api"
+	. "watershed/disk"
 )
 
 func ok(t *testing.T, err api.Errno) {

@@ -1,4 +1,4 @@
-package ferry
+package ferry_test
 
 import (
 	"bytes"
@@ -8,6 +8,7 @@ import (
 	"testing"
 
 	"watershed/api"
+	. "watershed/ferry"
 )
 
 func some(n int) []byte {

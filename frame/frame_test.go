@@ -1,10 +1,11 @@
-package frame
+package frame_test
 
 import (
 	"bytes"
 	"testing"
 
 	"watershed/api"
+	. "watershed/frame"
 	"watershed/sum"
 )
 
@@ -99,8 +100,9 @@ func TestGet(t *testing.T) { // P3.2, P3.3
 // tooLong is the bytes of a frame that would be right, if it were not too long.
 func tooLong() []byte {
 	data := make([]byte, api.MaxFrame+1)
-	h := head(1, len(data))
-	return append(append(h, four(sum.Sum(h, data))...), data...)
+	h := []byte{1, 0, 4, 0, 1}
+	x := sum.Sum(h, data)
+	return append(append(h, byte(x), byte(x>>8), byte(x>>16), byte(x>>24)), data...)
 }
 
 func TestGetTooLong(t *testing.T) { // P3.2

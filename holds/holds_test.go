@@ -1,4 +1,4 @@
-package holds
+package holds_test
 
 import (
 	"bytes"
@@ -9,6 +9,7 @@ import (
 	"testing"
 
 	"watershed/api"
+	. "watershed/holds"
 	"watershed/span"
 	"watershed/wire"
 )

@@ -1,4 +1,4 @@
-package image
+package image_test
 
 import (
 	"bytes"
@@ -8,6 +8,7 @@ import (
 	"watershed/api"
 	"watershed/disk"
 	"watershed/frame"
+	. "watershed/image"
 )
 
 func some(index int, s string) api.Image {

@@ -1,4 +1,4 @@
-package journal
+package journal_test
 
 import (
 	"bytes"
@@ -9,6 +9,7 @@ import (
 	"watershed/api"
 	"watershed/disk"
 	"watershed/frame"
+	. "watershed/journal"
 	"watershed/wire"
 )
 

@@ -1,4 +1,4 @@
-package letter
+package letter_test
 
 import (
 	"bytes"
@@ -6,6 +6,7 @@ import (
 	"testing"
 
 	"watershed/api"
+	. "watershed/letter"
 )
 
 func full() api.Letter {

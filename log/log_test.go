@@ -1,4 +1,4 @@
-package log
+package log_test
 
 import (
 	"bytes"
@@ -8,6 +8,7 @@ import (
 	"testing"
 
 	"watershed/api"
+	. "watershed/log"
 )
 
 func base(index, term int, voters ...int) api.Base {

@@ -1,4 +1,4 @@
-package machine
+package machine_test
 
 import (
 	"bytes"
@@ -8,6 +8,7 @@ import (
 	"testing"
 
 	"watershed/api"
+	. "watershed/machine"
 	"watershed/order"
 	"watershed/shares"
 )

@@ -1,4 +1,4 @@
-package member
+package member_test
 
 import (
 	"bytes"
@@ -9,6 +9,7 @@ import (
 	"watershed/api"
 	"watershed/disk"
 	"watershed/journal"
+	. "watershed/member"
 	"watershed/order"
 	"watershed/shares"
 )
@@ -90,26 +91,6 @@ func TestFillsWhatCame(t *testing.T) { // to end a call: the image that became t
 	l, _ := m.Letter(api.Letter{Kind: api.LetterAck, Group: 1, From: 1, To: 2, Term: term})
 	if len(l) != 1 || l[0].Kind != api.LetterPiece || l[0].Group != 1 || l[0].Base.Index != 7 || !bytes.Equal(l[0].Bytes, x.Bytes) || l[0].Size != len(x.Bytes) {
 		t.Errorf("%+v", l)
-	}
-}
-
-func TestWaitsUpToTheBase(t *testing.T) { // P24.3
-	for more := range 2 {
-		g := newGroup(t, 2, 1, 2)
-		g.rounds(30)
-		l := g.leader()
-		id := l.State().Id
-		g.members[3-id] = nil
-		g.out(l.Letter(propose(id, 5, 7, put(1, "k"))))
-		g.out(l.Letter(propose(id, 5, 8, put(2, "l"))))
-		x := someImage(t)
-		x.Base.Index, x.Base.Term = l.Last()-more, 9
-		p := pieceOf(x, 0, len(x.Bytes))
-		p.To, p.From, p.Term = id, 3-id, l.State().Term+1
-		l.Letter(p)
-		if l.Done() != x.Base.Index || len(l.waits) != more {
-			t.Errorf("%d, %v", l.Done(), l.waits)
-		}
 	}
 }
 

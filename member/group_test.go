@@ -1,4 +1,4 @@
-package member
+package member_test
 
 import (
 	"bytes"
@@ -11,6 +11,7 @@ import (
 	"watershed/disk"
 	"watershed/image"
 	"watershed/letter"
+	. "watershed/member"
 	"watershed/shares"
 )
 
@@ -316,20 +317,23 @@ func TestPiecesThatAreNone(t *testing.T) { // P24.3
 	}
 }
 
-func TestWaitsGo(t *testing.T) { // P24.3: what waits at most at an image's base does not any more
-	g := newGroup(t, 2, 1, 2)
-	g.rounds(30)
-	l := g.leader()
-	id := l.State().Id
-	g.members[3-id] = nil
-	g.out(l.Letter(propose(id, 5, 7, put(1, "k"))))
-	x := someImage(t)
-	x.Base.Index, x.Base.Term = l.Last()+3, 1
-	p := pieceOf(x, 0, len(x.Bytes))
-	p.To, p.From, p.Term = id, 3-id, l.State().Term+1
-	l.Letter(p)
-	if l.Done() != x.Base.Index || len(l.waits) > 0 {
-		t.Errorf("%d, %v", l.Done(), l.waits)
+func TestImageOverEntries(t *testing.T) { // P24.3: an image ahead of what is committed takes the place of what was proposed
+	for more := range 4 {
+		g := newGroup(t, 2, 1, 2)
+		g.rounds(30)
+		l := g.leader()
+		id := l.State().Id
+		g.members[3-id] = nil
+		g.out(l.Letter(propose(id, 5, 7, put(1, "k"))))
+		g.out(l.Letter(propose(id, 5, 8, put(2, "l"))))
+		x := someImage(t)
+		x.Base.Index, x.Base.Term = l.Last()-1+more, 1
+		p := pieceOf(x, 0, len(x.Bytes))
+		p.To, p.From, p.Term = id, 3-id, l.State().Term+1
+		letters, applied := l.Letter(p)
+		if len(letters) != 1 || len(applied) > 0 || l.Done() != x.Base.Index || l.Last() < l.Done() || !bytes.Equal(l.Machine().Bytes(), x.Bytes) {
+			t.Errorf("%+v, %d", letters, l.Done())
+		}
 	}
 }
 

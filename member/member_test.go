@@ -1,4 +1,4 @@
-package member
+package member_test
 
 import (
 	"bytes"
@@ -13,6 +13,7 @@ import (
 	"watershed/image"
 	"watershed/journal"
 	"watershed/letter"
+	. "watershed/member"
 	"watershed/order"
 	"watershed/shares"
 )

@@ -1,4 +1,4 @@
-package mover
+package mover_test
 
 import (
 	"reflect"
@@ -6,6 +6,7 @@ import (
 
 	"watershed/api"
 	"watershed/clerk"
+	. "watershed/mover"
 	"watershed/order"
 )
 

@@ -1,4 +1,4 @@
-package net
+package net_test
 
 import (
 	"math"
@@ -7,6 +7,7 @@ import (
 
 	"watershed/api"
 	"watershed/letter"
+	. "watershed/net"
 )
 
 func some(from, to, tag int) api.Letter {

@@ -1,4 +1,4 @@
-package node
+package node_test
 
 import (
 	"bytes"
@@ -11,6 +11,7 @@ import (
 	"watershed/disk"
 	"watershed/frame"
 	"watershed/letter"
+	. "watershed/node"
 	"watershed/order"
 	"watershed/shares"
 	"watershed/wire"

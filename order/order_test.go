@@ -1,4 +1,4 @@
-package order
+package order_test
 
 import (
 	"bytes"
@@ -8,6 +8,7 @@ import (
 	"testing"
 
 	"watershed/api"
+	. "watershed/order"
 )
 
 func name() api.Name { return api.Name{Client: 1, Num: 2} }

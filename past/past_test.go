@@ -1,10 +1,11 @@
-package past
+package past_test
 
 import (
 	"bytes"
 	"testing"
 
 	"watershed/api"
+	. "watershed/past"
 	"watershed/wire"
 )
 

@@ -1,10 +1,11 @@
-package quorum
+package quorum_test
 
 import (
 	"slices"
 	"testing"
 
 	"watershed/api"
+	. "watershed/quorum"
 )
 
 func cf(rows ...[]int) api.Config {

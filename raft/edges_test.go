@@ -1,4 +1,4 @@
-package raft
+package raft_test
 
 import (
 	"slices"
@@ -39,7 +39,7 @@ func TestLetterEdges(t *testing.T) { // P12.3
 
 func TestNextAtTheBase(t *testing.T) { // sending: Next must be above the base for a LetterAppend
 	base := api.Base{Index: 5, Term: 2, Config: cfg(r{1, 2, 3})}
-	p := New(1, 2, 0, log.New(base))
+	p := start(1, 2, 0, log.New(base))
 	ticks(p, 10, 0)
 	p.Letter(api.Letter{Kind: api.LetterVote, From: 3, To: 1, Term: 3, Ok: true})
 	out := p.Letter(api.Letter{Kind: api.LetterAck, From: 2, To: 1, Term: 3, Index: 4})
@@ -89,7 +89,7 @@ func TestLearnersDoNotAsk(t *testing.T) { // P12.2
 }
 
 // left is a leader 1 whose group goes over to 2 and 3: the last step, at 4, is put, not committed.
-func left(t *testing.T) *Peer {
+func left(t *testing.T) *tested {
 	t.Helper()
 	p := leader(t, cfg(r{1, 2, 3}))
 	ack(p, 2, 1)

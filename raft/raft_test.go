@@ -1,4 +1,4 @@
-package raft
+package raft_test
 
 import (
 	"math"
@@ -8,6 +8,7 @@ import (
 
 	"watershed/api"
 	"watershed/log"
+	. "watershed/raft"
 )
 
 func cfg(rows ...[]int) api.Config {
@@ -23,16 +24,24 @@ func command(term int, s string) api.Entry {
 
 func empty(term int) api.Entry { return api.Entry{Term: term, Kind: api.EntryNothing} }
 
+// tested is a peer, with the log that it works on.
+type tested struct {
+	*Peer
+	log *log.Log
+}
+
+func start(id, term, vote int, l *log.Log) *tested { return &tested{New(id, term, vote, l), l} }
+
 // peer is one of a group, with entries of these terms behind a base of index 0.
-func peer(id, term, vote int, c api.Config, terms ...int) *Peer {
+func peer(id, term, vote int, c api.Config, terms ...int) *tested {
 	l := log.New(api.Base{Config: c})
 	for _, t := range terms {
 		l.Put(empty(t))
 	}
-	return New(id, term, vote, l)
+	return start(id, term, vote, l)
 }
 
-func ticks(p *Peer, n, draw int) []api.Letter {
+func ticks(p *tested, n, draw int) []api.Letter {
 	var out []api.Letter
 	for range n {
 		out = append(out, p.Tick(draw)...)
@@ -41,7 +50,7 @@ func ticks(p *Peer, n, draw int) []api.Letter {
 }
 
 // leader is node 1 of the config, leading in term 1 by the votes of all, with an EntryNothing at the index 1.
-func leader(t *testing.T, c api.Config) *Peer {
+func leader(t *testing.T, c api.Config) *tested {
 	t.Helper()
 	p := peer(1, 0, 0, c)
 	ticks(p, 10, 0)
@@ -55,8 +64,9 @@ func leader(t *testing.T, c api.Config) *Peer {
 	return p
 }
 
-func ack(p *Peer, from, index int) []api.Letter {
-	return p.Letter(api.Letter{Kind: api.LetterAck, From: from, To: p.Id, Term: p.Term, Ok: true, Index: index})
+func ack(p *tested, from, index int) []api.Letter {
+	s := p.State()
+	return p.Letter(api.Letter{Kind: api.LetterAck, From: from, To: s.Id, Term: s.Term, Ok: true, Index: index})
 }
 
 // same tells whether letters are those, entries being told by their terms.
@@ -83,7 +93,7 @@ func told(t *testing.T, what string, got []api.Letter, want ...api.Letter) {
 	}
 }
 
-func state(t *testing.T, what string, p *Peer, want api.Peer) {
+func state(t *testing.T, what string, p *tested, want api.Peer) {
 	t.Helper()
 	if got := p.State(); got != want {
 		t.Errorf("%s: %+v, not %+v", what, got, want)
@@ -92,7 +102,7 @@ func state(t *testing.T, what string, p *Peer, want api.Peer) {
 
 func TestNew(t *testing.T) { // P12.1
 	l := log.New(api.Base{Index: 7, Term: 2})
-	p := New(3, 4, 5, l)
+	p := start(3, 4, 5, l)
 	state(t, "new", p, api.Peer{Id: 3, Term: 4, Vote: 5, Role: api.RoleFollower, Commit: 7})
 	if hard, from := p.Kept(); hard || from != 0 {
 		t.Error("nothing was set yet")
@@ -168,7 +178,7 @@ func TestAsks(t *testing.T) { // P12.2
 }
 
 func TestWhoMayNotAsk(t *testing.T) { // P12.2
-	for i, p := range []*Peer{peer(3, 0, 0, cfg(r{1, 2})), peer(3, 0, 0, cfg(r{1, 2}, nil, r{3}, r{1, 3})), peer(1, 0, 0, cfg()), peer(1, api.MaxTerm, 0, cfg(r{1}))} {
+	for i, p := range []*tested{peer(3, 0, 0, cfg(r{1, 2})), peer(3, 0, 0, cfg(r{1, 2}, nil, r{3}, r{1, 3})), peer(1, 0, 0, cfg()), peer(1, api.MaxTerm, 0, cfg(r{1}))} {
 		told(t, "no candidate", ticks(p, 50, 0))
 		if p.State().Role != api.RoleFollower {
 			t.Errorf("%d", i)
@@ -379,7 +389,7 @@ func TestTakesEntries(t *testing.T) { // P12.3, 5
 	} {
 		l := log.New(api.Base{Index: 5, Term: 2, Config: cfg(r{1, 2})})
 		l.Put(empty(2), empty(3), empty(3))
-		p := New(2, 4, 0, l)
+		p := start(2, 4, 0, l)
 		p.Letter(api.Letter{Kind: api.LetterAppend, From: 1, To: 2, Term: 4, Index: 8, LogTerm: 3, Commit: 6})
 		p.Kept()
 		var entries []api.Entry
@@ -507,7 +517,7 @@ func TestLongLetters(t *testing.T) { // sending
 
 func TestPieces(t *testing.T) { // sending, P12.3, 7
 	base := api.Base{Index: 5, Term: 2, Config: cfg(r{1, 2, 3})}
-	p := New(1, 2, 0, log.New(base))
+	p := start(1, 2, 0, log.New(base))
 	ticks(p, 10, 0)
 	p.Letter(api.Letter{Kind: api.LetterVote, From: 3, To: 1, Term: 3, Ok: true})
 	no := p.Letter(api.Letter{Kind: api.LetterAck, From: 2, To: 1, Term: 3, Index: 0})
@@ -653,7 +663,7 @@ func TestWantedAgain(t *testing.T) { // to commit: a leader that is left out, an
 
 func TestInstallCompact(t *testing.T) { // P12.5
 	l := log.New(api.Base{Config: cfg(r{1, 2})})
-	p := New(2, 1, 0, l)
+	p := start(2, 1, 0, l)
 	p.Letter(api.Letter{Kind: api.LetterAppend, From: 1, To: 2, Term: 1, Commit: 2, Entries: []api.Entry{empty(1), empty(1), empty(1)}})
 	if p.Compact(3) || p.Compact(-1) || !p.Compact(1) || l.Base().Index != 1 || !p.Compact(2) || p.Compact(1) {
 		t.Error("compact")

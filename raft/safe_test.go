@@ -1,4 +1,4 @@
-package raft
+package raft_test
 
 import (
 	"strconv"
@@ -12,7 +12,7 @@ import (
 type group struct {
 	t         *testing.T
 	seed      uint32
-	peers     [6]*Peer
+	peers     [6]*tested
 	way       []api.Letter
 	leaders   map[int]int    // of each term who led
 	committed map[int]string // of each index what was committed
@@ -58,7 +58,7 @@ func (g *group) again(n int) {
 	s, base := p.State(), p.log.Base()
 	l := log.New(base)
 	l.Put(p.log.From(base.Index+1, 1<<30)...)
-	g.peers[n] = New(n, s.Term, s.Vote, l)
+	g.peers[n] = start(n, s.Term, s.Vote, l)
 }
 
 func (g *group) step() {
@@ -126,7 +126,7 @@ func (g *group) check() {
 }
 
 // leads checks that a new leader has all that was committed.
-func (g *group) leads(p *Peer) {
+func (g *group) leads(p *tested) {
 	for i, was := range g.committed {
 		if e, is := p.log.At(i); i > p.log.Base().Index && (!is || text(e) != was) {
 			g.t.Fatalf("at %d the leader %d has %q, not %q", i, p.State().Id, text(e), was)
@@ -159,7 +159,7 @@ func TestSafe(t *testing.T) { // P12.6
 			voters = []int{2}
 		}
 		for n := 1; n <= 5; n++ {
-			g.peers[n] = New(n, 0, 0, log.New(api.Base{Config: api.Config{Voters: voters}}))
+			g.peers[n] = start(n, 0, 0, log.New(api.Base{Config: api.Config{Voters: voters}}))
 		}
 		for i := range 4000 {
 			g.step()
@@ -179,9 +179,9 @@ func TestSafe(t *testing.T) { // P12.6
 func TestAnyLetters(t *testing.T) { // R1
 	g := &group{t: t, seed: 5}
 	for range 300 {
-		p := New(1+g.next(5), g.next(4), g.next(6), log.New(api.Base{Index: g.next(3), Term: g.next(3), Config: api.Config{Voters: []int{g.next(7), g.next(7)}, Want: []int{g.next(9) - 1}}}))
+		p := start(1+g.next(5), g.next(4), g.next(6), log.New(api.Base{Index: g.next(3), Term: g.next(3), Config: api.Config{Voters: []int{g.next(7), g.next(7)}, Want: []int{g.next(9) - 1}}}))
 		for range 200 {
-			x := api.Letter{Kind: api.LetterKind(g.next(9)), From: g.next(7), To: p.Id, Term: g.next(5), Index: g.next(8) - 1, LogTerm: g.next(5) - 1, Commit: g.next(9), Ok: g.next(2) == 0, Size: g.next(3), At: g.next(3)}
+			x := api.Letter{Kind: api.LetterKind(g.next(9)), From: g.next(7), To: p.State().Id, Term: g.next(5), Index: g.next(8) - 1, LogTerm: g.next(5) - 1, Commit: g.next(9), Ok: g.next(2) == 0, Size: g.next(3), At: g.next(3)}
 			for range g.next(3) {
 				x.Entries = append(x.Entries, api.Entry{Term: g.next(5), Kind: api.EntryKind(g.next(4)), Config: api.Config{Voters: []int{g.next(8) - 1}, Learners: []int{g.next(99) - 9}, Want: []int{g.next(8)}}})
 			}

@@ -1,4 +1,4 @@
-package registry
+package registry_test
 
 import (
 	"bytes"
@@ -7,6 +7,7 @@ import (
 	"testing"
 
 	"watershed/api"
+	. "watershed/registry"
 	"watershed/ruling"
 	"watershed/shares"
 	"watershed/wire"

@@ -1,4 +1,4 @@
-package rows
+package rows_test
 
 import (
 	"bytes"
@@ -8,6 +8,7 @@ import (
 	"testing"
 
 	"watershed/api"
+	. "watershed/rows"
 	"watershed/span"
 	"watershed/wire"
 )

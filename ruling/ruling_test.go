@@ -1,4 +1,4 @@
-package ruling
+package ruling_test
 
 import (
 	"bytes"
@@ -8,6 +8,7 @@ import (
 	"testing"
 
 	"watershed/api"
+	. "watershed/ruling"
 	"watershed/wire"
 )
 

@@ -1,4 +1,4 @@
-package scheme
+package scheme_test
 
 import (
 	"bytes"
@@ -6,6 +6,7 @@ import (
 	"testing"
 
 	"watershed/api"
+	. "watershed/scheme"
 	"watershed/shares"
 	"watershed/wire"
 )

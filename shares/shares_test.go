@@ -1,4 +1,4 @@
-package shares
+package shares_test
 
 import (
 	"fmt"
@@ -6,6 +6,7 @@ import (
 	"testing"
 
 	"watershed/api"
+	. "watershed/shares"
 	"watershed/span"
 )
 

@@ -1,4 +1,4 @@
-package span
+package span_test
 
 import (
 	"slices"
@@ -6,6 +6,7 @@ import (
 	"testing"
 
 	"watershed/api"
+	. "watershed/span"
 )
 
 func sp(lo, hi string) api.Span { return api.Span{Lo: lo, Hi: hi} }

@@ -1,6 +1,10 @@
-package sum
+package sum_test
 
-import "testing"
+import (
+	"testing"
+
+	. "watershed/sum"
+)
 
 // bitwise sums as the document's words say, bit by bit.
 func bitwise(r uint32, b []byte) uint32 {

@@ -1,4 +1,4 @@
-package tract
+package tract_test
 
 import (
 	"bytes"
@@ -8,6 +8,7 @@ import (
 
 	"watershed/api"
 	"watershed/span"
+	. "watershed/tract"
 	"watershed/wire"
 )
 
@@ -371,9 +372,20 @@ func TestReadRoom(t *testing.T) { // P18.5
 	if _, is := Read(wire.NewReader(bytesOf(x))); !is {
 		t.Error("there is room")
 	}
-	y := x.Copy()
-	y.rows.Put(api.Row{Key: "b"})
-	if _, is := Read(wire.NewReader(bytesOf(y))); is {
-		t.Error("there is no room")
+	for more := range 2 { // beside the cargo, of 20 rows to come, there are 380 here, or one more
+		y := New(share("", "f", 1))
+		for i := range 370 {
+			do(t, y, name(1, 1+i), 1, put(fmt.Sprintf("a%03d", i), ""))
+		}
+		for i := range 10 + more {
+			prepare(t, y, api.OK, name(2, 1+i), 1, put(fmt.Sprintf("b%02d", i), ""))
+		}
+		b := bytesOf(y)
+		w := wire.NewWriter().Numbers(1).Texts("f", "").Rows(cargoOf(t, 10, 10))
+		aboard, _ := w.Done()
+		b = append(append(b[:len(b)-1], 1), aboard...)
+		if _, is := Read(wire.NewReader(b)); is != (more == 0) {
+			t.Errorf("%d more: %v", more, is)
+		}
 	}
 }

@@ -1,4 +1,4 @@
-package tract
+package tract_test
 
 import (
 	"bytes"
@@ -9,6 +9,7 @@ import (
 
 	"watershed/api"
 	"watershed/span"
+	. "watershed/tract"
 	"watershed/wire"
 )
 

@@ -1,4 +1,4 @@
-package wire
+package wire_test
 
 import (
 	"bytes"
@@ -6,7 +6,11 @@ import (
 	"testing"
 
 	"watershed/api"
+	. "watershed/wire"
 )
+
+// mostNumber is the greatest number.
+const mostNumber = 1<<62 - 1
 
 func done(t *testing.T, w *Writer) []byte {
 	t.Helper()

@@ -1,4 +1,4 @@
-package witness
+package witness_test
 
 import (
 	"fmt"
@@ -8,6 +8,7 @@ import (
 	"testing"
 
 	"watershed/api"
+	. "watershed/witness"
 	"watershed/world"
 )
 

@@ -1,4 +1,4 @@
-package world
+package world_test
 
 import (
 	"fmt"
@@ -9,6 +9,7 @@ import (
 	"watershed/api"
 	"watershed/shares"
 	"watershed/span"
+	. "watershed/world"
 )
 
 // dice is numbers that are the same each time.

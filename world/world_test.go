@@ -1,4 +1,4 @@
-package world
+package world_test
 
 import (
 	"reflect"
@@ -8,6 +8,7 @@ import (
 	"watershed/api"
 	"watershed/order"
 	"watershed/shares"
+	. "watershed/world"
 )
 
 func get(key string) api.Act          { return api.Act{Kind: api.ActGet, Key: key} }
