@@ -35,10 +35,31 @@ type Tale struct {
 	Command                  []byte
 }
 
-func copyTale(t Tale) Tale {
-	t.Acts, t.Reads, t.Command = slices.Clone(t.Acts), slices.Clone(t.Reads), slices.Clone(t.Command)
-	t.Shares.List = slices.Clone(t.Shares.List)
-	return t
+// part copies l to the end of a store that has room for it, and tells the copy, which nothing can grow into.
+func part[T any](store *[]T, l []T) []T {
+	if len(l) == 0 {
+		return nil
+	}
+	from := len(*store)
+	*store = append(*store, l...)
+	return (*store)[from:len(*store):len(*store)]
+}
+
+// copyTales is tales in memory of their own: one store of each kind of lists, as there may be many tales.
+func copyTales(l []Tale) []Tale {
+	acts, reads, list, bytes := 0, 0, 0, 0
+	for i := range l {
+		t := &l[i]
+		acts, reads, list, bytes = acts+len(t.Acts), reads+len(t.Reads), list+len(t.Shares.List), bytes+len(t.Command)
+	}
+	allActs, allReads, allShares, allBytes := make([]api.Act, 0, acts), make([]api.Read, 0, reads), make([]api.Share, 0, list), make([]byte, 0, bytes)
+	out := slices.Clone(l)
+	for i := range out {
+		t := &out[i]
+		t.Acts, t.Reads = part(&allActs, t.Acts), part(&allReads, t.Reads)
+		t.Shares.List, t.Command = part(&allShares, t.Shares.List), part(&allBytes, t.Command)
+	}
+	return out
 }
 
 func (w *World) put(l ...Tale) { w.history = append(w.history, l...) }
